@@ -5,6 +5,7 @@ import (
 	"math/bits"
 
 	"doppelganger/api"
+	"doppelganger/found"
 )
 
 // Hide returns a machine that accepts the accepted words without some letters.
@@ -18,7 +19,7 @@ func Hide(m api.Machine, hidden []bool) (api.Machine, api.Errno) {
 	}
 	quiet := reaches(m, hidden)
 	columns := byLetter(m)
-	sets, rows, all := search(quiet[m.Start].set, states{}, m.Letters, api.MaxStates, func(from states, letter int) states {
+	sets, rows, all := found.Search(quiet[m.Start].set, states{}, m.Letters, api.MaxStates, func(from states, letter int) states {
 		var to states
 		if hidden[letter] {
 			return to

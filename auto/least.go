@@ -1,6 +1,9 @@
 package auto
 
-import "doppelganger/api"
+import (
+	"doppelganger/api"
+	"doppelganger/found"
+)
 
 // Least returns the least machine that accepts the same words.
 func Least(m api.Machine) (api.Machine, api.Errno) {
@@ -18,7 +21,7 @@ func least(m api.Machine) api.Machine {
 		return api.Machine{Letters: m.Letters, Start: nowhere}
 	}
 	p := classes(m, into, alive)
-	kept, rows, _ := search(p.class[m.Start], nowhere, m.Letters, len(p.begin), func(class, letter int) int {
+	kept, rows, _ := found.Search(p.class[m.Start], nowhere, m.Letters, len(p.begin), func(class, letter int) int {
 		next := m.Next[p.one(class)][letter]
 		if next == nowhere {
 			return nowhere

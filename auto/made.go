@@ -1,6 +1,9 @@
 package auto
 
-import "doppelganger/api"
+import (
+	"doppelganger/api"
+	"doppelganger/found"
+)
 
 // Both returns a machine that accepts the words that both accept.
 func Both(a, b api.Machine) (api.Machine, api.Errno) {
@@ -28,7 +31,7 @@ func together(a, b api.Machine, takes func(inA, inB bool) bool) (api.Machine, ap
 	if first == nowherePair() {
 		return api.Machine{Letters: a.Letters, Start: nowhere}, api.OK
 	}
-	pairs, rows, all := search(first, nowherePair(), a.Letters, api.MaxInner, func(pair api.Pair, letter int) api.Pair {
+	pairs, rows, all := found.Search(first, nowherePair(), a.Letters, api.MaxInner, func(pair api.Pair, letter int) api.Pair {
 		return counted(leadPair(a, b, pair, letter))
 	})
 	if !all {

@@ -4,6 +4,7 @@ import (
 	"slices"
 
 	"doppelganger/api"
+	"doppelganger/found"
 )
 
 // nowherePair is the pair of nowhere and nowhere: what follows it is always the same.
@@ -124,7 +125,7 @@ func Relate(a, b api.Machine) ([]api.Pair, api.Errno) {
 	if starts(a, b) == nowherePair() {
 		return nil, api.OK
 	}
-	pairs, _, all := search(starts(a, b), nowherePair(), a.Letters, api.MaxInner, func(pair api.Pair, letter int) api.Pair {
+	pairs, _, all := found.Search(starts(a, b), nowherePair(), a.Letters, api.MaxInner, func(pair api.Pair, letter int) api.Pair {
 		return leadPair(a, b, pair, letter)
 	})
 	if !all {

@@ -1,6 +1,9 @@
 package play
 
-import "doppelganger/api"
+import (
+	"doppelganger/api"
+	"doppelganger/numbers"
+)
 
 // ending is what comes of a program. A fault, a run that never ends and one of too many steps leave by it.
 type ending struct {
@@ -68,7 +71,7 @@ func (r *runner) run(at int, s *scope) int {
 	case api.Add, api.Sub, api.Mul, api.Equal, api.Less:
 		left := r.run(n.Kids[0], s)
 		right := r.run(n.Kids[1], s)
-		return calculate(n.Kind, left, right)
+		return numbers.Calculate(n.Kind, left, right)
 	}
 	return 0
 }
@@ -182,25 +185,4 @@ func (r *runner) block(n *api.Node, s *scope) {
 		r.forget(count)
 	}()
 	r.run(n.Kids[0], label)
-}
-
-func calculate(kind, left, right int) int {
-	switch kind {
-	case api.Add:
-		return (left + right) % api.Width
-	case api.Sub:
-		return (left - right + api.Width) % api.Width
-	case api.Mul:
-		return left * right % api.Width
-	case api.Equal:
-		return truth(left == right)
-	}
-	return truth(left < right)
-}
-
-func truth(so bool) int {
-	if so {
-		return 1
-	}
-	return 0
 }

@@ -1,6 +1,10 @@
-package auto
+// Package found numbers things in the order in which they are found: states of machines, pairs and sets of them, situations of plays.
+package found
 
-// found numbers what is found, in the order in which it is found.
+// nowhere is the number of no thing.
+const nowhere = -1
+
+// found numbers what is found.
 type found[T comparable] struct {
 	number map[T]int
 	things []T
@@ -17,8 +21,8 @@ func (f *found[T]) numberOf(thing T) int {
 	return number
 }
 
-// search finds all to which letters lead from the first thing, thing by thing, letter by letter. It returns what is found and, for each thing and letter, the number of the next thing; none is no thing, and has the number of nowhere. It gives up, and reports false, when more than most things are found.
-func search[T comparable](first, none T, letters, most int, next func(T, int) T) ([]T, [][]int, bool) {
+// Search finds all to which letters lead from the first thing, thing by thing, letter by letter: in this order next is asked. It returns what is found and, for each thing and letter, the number of the next thing; none is no thing, and has the number -1. It gives up, and reports false, when more than most things are found.
+func Search[T comparable](first, none T, letters, most int, next func(T, int) T) ([]T, [][]int, bool) {
 	f := &found[T]{number: map[T]int{none: nowhere}}
 	f.numberOf(first)
 	var rows [][]int
