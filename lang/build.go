@@ -4,6 +4,7 @@ import (
 	"slices"
 
 	"doppelganger/api"
+	"doppelganger/words"
 )
 
 // wellFormed reports whether nodes are the list of a term of a type. It goes backwards, so that it is known of each node where all that hangs on its kids ends.
@@ -48,7 +49,7 @@ func tooDeep(nodes []api.Node) bool {
 // validNode reports whether a node, but for its kids, is as its kind has it.
 func validNode(n api.Node) bool {
 	if n.Kind == api.Proc {
-		return validName(n.Name) && n.Value == 0 && validParams(n.Params) && validResult(n.Result) && validResult(n.Type)
+		return words.IsName(n.Name) && n.Value == 0 && validParams(n.Params) && validResult(n.Result) && validResult(n.Type)
 	}
 	if len(n.Params) > 0 || n.Result != 0 {
 		return false
@@ -57,13 +58,13 @@ func validNode(n api.Node) bool {
 	case api.Stop, api.Fault, api.If:
 		return n.Name == "" && n.Value == 0 && validResult(n.Type)
 	case api.New, api.Call, api.Exit:
-		return validName(n.Name) && n.Value == 0 && validResult(n.Type)
+		return words.IsName(n.Name) && n.Value == 0 && validResult(n.Type)
 	case api.Assign, api.Block:
-		return validName(n.Name) && n.Value == 0 && n.Type == api.Com
+		return words.IsName(n.Name) && n.Value == 0 && n.Type == api.Com
 	case api.Skip, api.Seq, api.While:
 		return n.Name == "" && n.Value == 0 && n.Type == api.Com
 	case api.Read:
-		return validName(n.Name) && n.Value == 0 && n.Type == api.Exp
+		return words.IsName(n.Name) && n.Value == 0 && n.Type == api.Exp
 	case api.Num:
 		return n.Name == "" && n.Value >= 0 && n.Value < api.Width && n.Type == api.Exp
 	case api.Add, api.Sub, api.Mul, api.Equal, api.Less, api.Do:

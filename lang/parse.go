@@ -1,14 +1,8 @@
 package lang
 
 import (
-	"strings"
-
 	"doppelganger/api"
-)
-
-const (
-	blanks = " \t\n"
-	marks  = ":=,;<+-*(){}[]" // those of one byte
+	"doppelganger/words"
 )
 
 // malformed is what leaves the parser where a text is not by the grammar.
@@ -43,24 +37,9 @@ func parse(text string) (decls []api.Decl, typ api.Type, root term, ok bool) {
 
 // next goes on to the next part.
 func (p *parser) next() {
-	p.rest = strings.TrimLeft(p.rest, blanks)
-	length := partLength(p.rest)
-	p.part = p.rest[:length]
-	p.rest = p.rest[length:]
-}
-
-// partLength returns how many bytes the part has that a text begins with.
-func partLength(text string) int {
-	letters := countLetters(text)
-	if letters > 0 || text == "" {
-		return letters
-	}
-	switch text[:min(2, len(text))] {
-	case ":=", "==", "|-":
-		return 2
-	}
-	must(isDigit(text[:1]) || strings.Contains(marks, text[:1]))
-	return 1
+	part, rest, ok := words.First(p.rest)
+	must(ok)
+	p.part, p.rest = part, rest
 }
 
 // must leaves the parser unless what the grammar asks for is so.
@@ -87,7 +66,7 @@ func (p *parser) want(part string) {
 
 func (p *parser) name() string {
 	name := p.part
-	must(validName(name))
+	must(words.IsName(name))
 	p.next()
 	return name
 }
@@ -334,11 +313,11 @@ func (p *parser) atom() term {
 	if t := p.ofEither(api.Exp); t != nil {
 		return t
 	}
-	switch {
-	case isDigit(p.part):
-		value := int(p.part[0] - '0')
+	if value, ok := words.Digit(p.part); ok {
 		p.next()
 		return num{value}
+	}
+	switch {
 	case p.take("("):
 		inner := p.exp()
 		p.want(")")

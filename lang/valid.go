@@ -4,31 +4,8 @@ import (
 	"slices"
 
 	"doppelganger/api"
+	"doppelganger/words"
 )
-
-// countLetters returns how many letters a text begins with.
-func countLetters(text string) int {
-	count := 0
-	for count < len(text) && 'a' <= text[count] && text[count] <= 'z' {
-		count++
-	}
-	return count
-}
-
-func isDigit(part string) bool {
-	return len(part) == 1 && '0' <= part[0] && part[0] < '0'+api.Width
-}
-
-func validName(name string) bool {
-	if len(name) < 1 || len(name) > api.MaxName || countLetters(name) != len(name) {
-		return false
-	}
-	switch name {
-	case "skip", "stop", "fault", "if", "while", "new", "proc", "block", "exit", "do", "com", "exp", "val":
-		return false
-	}
-	return true
-}
 
 func validResult(typ api.Type) bool {
 	return typ == api.Com || typ == api.Exp
@@ -45,7 +22,7 @@ func validDecls(decls []api.Decl) bool {
 	}
 	var names []string
 	for _, decl := range decls {
-		if !validName(decl.Name) || slices.Contains(names, decl.Name) || !validResult(decl.Result) || len(decl.Args) > api.MaxArgs {
+		if !words.IsName(decl.Name) || slices.Contains(names, decl.Name) || !validResult(decl.Result) || len(decl.Args) > api.MaxArgs {
 			return false
 		}
 		for _, arg := range decl.Args {
@@ -65,7 +42,7 @@ func validParams(params []api.Param) bool {
 	}
 	var names []string
 	for _, param := range params {
-		if !validName(param.Name) || slices.Contains(names, param.Name) || !validType(param.Type) {
+		if !words.IsName(param.Name) || slices.Contains(names, param.Name) || !validType(param.Type) {
 			return false
 		}
 		names = append(names, param.Name)

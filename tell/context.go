@@ -5,6 +5,7 @@ import (
 
 	"doppelganger/api"
 	"doppelganger/lang"
+	"doppelganger/terms"
 )
 
 // hole is the name by which a context calls the piece.
@@ -26,24 +27,24 @@ func (v variable) used() bool {
 	return slices.Max(v.values) > 0
 }
 
-func (v variable) read() term {
+func (v variable) read() terms.Term {
 	if !v.used() {
-		return number(0)
+		return terms.Number(0)
 	}
-	return read(v.name)
+	return terms.Read(v.name)
 }
 
 // builder puts a context together. Whatever the piece does comes to the context at few places: the names that the piece asks about are procedures, arguments that these ask about come to an end, and so does the hole. At each of these places only those rounds go on in which the piece has to say just this; in all others the context stops. What goes on is always the call that waits, so nothing has to be known of the calls around it.
 type builder struct {
 	decls  []api.Decl
 	rounds []round
-	free   []string                     // names that are not declared, for what the context binds itself
-	params [api.MaxArgs]string          // of all procedures
-	heard  string                       // the variable that has the value of an answer
-	digits []variable                   // of the number of the round that is under way, the first one counting most
-	ask    variable                     // the number of the argument that is to be asked about, 0 if there is none
-	reply  variable                     // the answer that is to be given
-	todo   []func(heard ...string) term // what is to be done in each round when its move comes, with its values in some variables
+	free   []string                           // names that are not declared, for what the context binds itself
+	params [api.MaxArgs]string                // of all procedures
+	heard  string                             // the variable that has the value of an answer
+	digits []variable                         // of the number of the round that is under way, the first one counting most
+	ask    variable                           // the number of the argument that is to be asked about, 0 if there is none
+	reply  variable                           // the answer that is to be given
+	todo   []func(heard ...string) terms.Term // what is to be done in each round when its move comes, with its values in some variables
 }
 
 // newContext returns the context of a row of moves that is possible.
@@ -53,8 +54,8 @@ func newContext(decls []api.Decl, typ api.Type, play []api.Move) (*lang.Piece, a
 		return nil, api.ErrFull
 	}
 	b := newBuilder(decls, play)
-	whole := b.whole(call(hole, typ))
-	return lang.Build([]api.Decl{{Name: hole, Result: typ}}, api.Com, whole.nodes(nil))
+	whole := b.whole(terms.Call(hole, typ))
+	return lang.Build([]api.Decl{{Name: hole, Result: typ}}, api.Com, whole.Nodes())
 }
 
 func newBuilder(decls []api.Decl, play []api.Move) *builder {
@@ -73,7 +74,7 @@ func newBuilder(decls []api.Decl, play []api.Move) *builder {
 		b.digits = slices.Insert(b.digits, 0, digit)
 	}
 	for at, r := range b.rounds {
-		b.todo = append(b.todo, func(heard ...string) term {
+		b.todo = append(b.todo, func(heard ...string) terms.Term {
 			return when(b.goOn(at), stop(), have(r.said.Value, heard...)...)
 		})
 	}
@@ -114,19 +115,19 @@ func (b *builder) variables() []variable {
 }
 
 // whole returns the whole context around a call of the hole.
-func (b *builder) whole(t term) term {
+func (b *builder) whole(t terms.Term) terms.Term {
 	t = b.receive(t, api.Move{Answer: true})
 	for _, decl := range b.decls {
 		t = b.procedure(decl, t)
 	}
 	for _, v := range b.variables() {
-		t = fresh(v.name, number(0), t)
+		t = terms.New(v.name, terms.Number(0), t)
 	}
 	return t
 }
 
 // procedure returns a block within the procedure that a declared name is: it hears the question, asks about arguments as long as this is to be done, and answers.
-func (b *builder) procedure(decl api.Decl, block term) term {
+func (b *builder) procedure(decl api.Decl, block terms.Term) terms.Term {
 	head := api.Node{Kind: api.Proc, Name: decl.Name, Result: decl.Result}
 	var values []string
 	for i, arg := range decl.Args {
@@ -137,41 +138,41 @@ func (b *builder) procedure(decl api.Decl, block term) term {
 	}
 	body := row(b.expect(api.Move{Name: decl.Name}, values...), b.asking(decl)...)
 	if decl.Result == api.Exp {
-		body = node(api.Node{Kind: api.Do, Type: api.Exp}, body, b.reply.read())
+		body = terms.Do(body, b.reply.read())
 	}
-	return node(head, body, block)
+	return terms.Of(head, body, block)
 }
 
 // asking returns what asks about the arguments of a name as long as this is to be done; nothing if it never is.
-func (b *builder) asking(decl api.Decl) []term {
-	var asks []term
+func (b *builder) asking(decl api.Decl) []terms.Term {
+	var asks []terms.Term
 	for i, arg := range decl.Args {
 		question := api.Move{Name: decl.Name, Arg: i + 1}
 		if !slices.ContainsFunc(b.rounds, func(r round) bool { return r.asked == question }) {
 			continue
 		}
-		one := b.receive(call(b.params[i], arg), api.Move{Name: decl.Name, Arg: i + 1, Answer: true})
+		one := b.receive(terms.Call(b.params[i], arg), api.Move{Name: decl.Name, Arg: i + 1, Answer: true})
 		if len(asks) > 0 {
 			one = when(one, asks[0], is(b.ask.name, i+1))
 		}
-		asks = []term{one}
+		asks = []terms.Term{one}
 	}
 	if len(asks) == 0 {
 		return nil
 	}
-	return []term{node(api.Node{Kind: api.While}, b.ask.read(), asks[0])}
+	return []terms.Term{terms.Of(api.Node{Kind: api.While}, b.ask.read(), asks[0])}
 }
 
 // receive returns what runs what is asked about, and hears the answer.
-func (b *builder) receive(asked term, answer api.Move) term {
+func (b *builder) receive(asked terms.Term, answer api.Move) terms.Term {
 	if asked.Type == api.Exp {
-		return fresh(b.heard, asked, b.expect(answer, b.heard))
+		return terms.New(b.heard, asked, b.expect(answer, b.heard))
 	}
 	return row(asked, b.expect(answer))
 }
 
 // expect returns what is done when a move of the piece comes, with its values in some variables.
-func (b *builder) expect(move api.Move, heard ...string) term {
+func (b *builder) expect(move api.Move, heard ...string) terms.Term {
 	var rounds []int
 	for at, r := range b.rounds {
 		said := r.said
@@ -184,7 +185,7 @@ func (b *builder) expect(move api.Move, heard ...string) term {
 }
 
 // choose returns what is done in the round that is under way, if it is one of some that differ in some digits. In all others the context stops.
-func (b *builder) choose(rounds []int, digits []variable, heard ...string) term {
+func (b *builder) choose(rounds []int, digits []variable, heard ...string) terms.Term {
 	t := stop()
 	if len(rounds) == 0 {
 		return t
@@ -207,8 +208,8 @@ func (b *builder) choose(rounds []int, digits []variable, heard ...string) term 
 }
 
 // have returns what is true if variables have the values that a move tells.
-func have(value int, variables ...string) []term {
-	var conditions []term
+func have(value int, variables ...string) []terms.Term {
+	var conditions []terms.Term
 	for _, name := range variables {
 		conditions = append(conditions, is(name, value%api.Width))
 		value /= api.Width
@@ -217,11 +218,11 @@ func have(value int, variables ...string) []term {
 }
 
 // goOn returns what makes the move of the other side that follows a round, as far as its variables are other ones then; behind the last round it is the fault.
-func (b *builder) goOn(at int) term {
+func (b *builder) goOn(at int) terms.Term {
 	if at == len(b.rounds)-1 {
 		return fault()
 	}
-	var steps []term
+	var steps []terms.Term
 	for _, v := range b.variables() {
 		if next := v.values[at+1]; next != v.values[at] {
 			steps = append(steps, set(v.name, next))
